@@ -1,0 +1,113 @@
+// Package archive: snapshots of trees of files, on a disk of sectors: see DOC.md.
+package archive
+
+import (
+	"errors"
+	"strconv"
+
+	"stow/sums"
+)
+
+// Why something is refused: asked with errors.Is.
+var (
+	ErrArg     = errors.New("an argument that may not be")
+	ErrDown    = errors.New("the disk is down")
+	ErrFormat  = errors.New("no archive is there")
+	ErrCorrupt = errors.New("damage")
+	ErrPath    = errors.New("a path that may not be")
+	ErrNone    = errors.New("it is not there")
+	ErrKind    = errors.New("it is of the other kind")
+	ErrAgain   = errors.New("it is there already")
+	ErrBusy    = errors.New("it is not empty")
+	ErrMany    = errors.New("no room in a directory")
+	ErrBig     = errors.New("too many bytes")
+	ErrFull    = errors.New("the disk is full")
+)
+
+// Fault is a reason and at which sector: asked with errors.As (for a *Fault).
+type Fault struct {
+	At  int
+	Err error
+}
+
+func (f *Fault) Error() string {
+	if f == nil {
+		return "no fault"
+	}
+	return reasonText(f.Err) + " at sector " + strconv.Itoa(f.At)
+}
+
+func (f *Fault) Unwrap() error {
+	if f == nil {
+		return nil
+	}
+	return f.Err
+}
+
+// reasonText asks none but the package's own reasons: another error might panic, or wrap itself and never end.
+func reasonText(err error) string {
+	for _, reason := range []error{ErrArg, ErrDown, ErrFormat, ErrCorrupt, ErrPath, ErrNone, ErrKind, ErrAgain, ErrBusy, ErrMany, ErrBig, ErrFull} {
+		if err == reason {
+			return reason.Error()
+		}
+	}
+	return "a fault"
+}
+
+// Info tells a snapshot (P10).
+type Info struct {
+	Number int
+	Label  string
+	Root   string
+}
+
+// Entry tells what stands in a directory (P11).
+type Entry struct {
+	Name string
+	Dir  bool
+	Size int
+}
+
+// Sum tells the 32 bytes of a text's SHA-256 (P3).
+func Sum(text string) string {
+	sum := sums.Of(text)
+	return string(sum[:])
+}
+
+// CRC tells the CRC-32 of a text (P3).
+func CRC(text string) uint32 { return sums.CRC(text) }
+
+// Format makes an empty archive of a disk (P8).
+func Format(d *Disk) error { return nil }
+
+// Archive is a tree, and its snapshots on a disk.
+type Archive struct{}
+
+// Mount finds the archive of a disk (P9).
+func Mount(d *Disk) (*Archive, error) { return nil, nil }
+
+// Write puts a file into the tree (P6).
+func (a *Archive) Write(path, data string) error { return nil }
+
+// Mkdir puts a directory into the tree (P6).
+func (a *Archive) Mkdir(path string) error { return nil }
+
+// Remove takes something out of the tree (P6).
+func (a *Archive) Remove(path string) error { return nil }
+
+// Snapshot keeps the tree as it is (P10).
+func (a *Archive) Snapshot(label string) (int, error) { return 0, nil }
+
+// Snapshots tells all (P10).
+func (a *Archive) Snapshots() []Info { return nil }
+
+// Read tells a file of a snapshot, or of the tree (P11).
+func (a *Archive) Read(n int, path string) (string, error) { return "", nil }
+
+// List tells what stands in a directory of a snapshot, or of the tree (P11).
+func (a *Archive) List(n int, path string) func(yield func(Entry, error) bool) {
+	return func(yield func(Entry, error) bool) {}
+}
+
+// Verify looks for damage (P12).
+func (a *Archive) Verify() error { return nil }
