@@ -78,22 +78,44 @@ func TestCRCAtEachByteAndLength(t *testing.T) {
 	}
 }
 
-// TestCRCAskedByMany asks for a table of its own by several at once, as if it were the first time.
-func TestCRCAskedByMany(t *testing.T) {
-	table := remainders{}
+func TestTableIsMadeOnceWhenFirstAsked(t *testing.T) {
+	var halves table
+	if halves.rows != [16]uint32{} {
+		t.Error("Ways, P3: the CRC's table is there ahead of the first that asks")
+	}
+	if got := halves.row(1); got != shifted(1) {
+		t.Errorf("P3: row 1 of the CRC's table: %08x, want %08x", got, shifted(1))
+	}
+	halves.rows[2] = 7 // a table that is made again has not this row
+	if halves.row(1) != shifted(1) || halves.row(2) != 7 {
+		t.Error("Ways, P3: the CRC's table is made more than once")
+	}
+}
+
+func TestTableAskedByMany(t *testing.T) {
+	var halves table
 	var group sync.WaitGroup
 	rows := make([]uint32, 16)
 	for i := range rows {
+		group.Go(func() { rows[i] = halves.row(uint32(i)) })
+	}
+	group.Wait()
+	for i, row := range rows {
+		if row != shifted(uint32(i)) {
+			t.Errorf("P3: row %d of the CRC's table: %08x, want %08x", i, row, shifted(uint32(i)))
+		}
+	}
+}
+
+func TestCRCAskedByMany(t *testing.T) {
+	var group sync.WaitGroup
+	for n := range 64 {
 		group.Go(func() {
-			table.once.Do(table.fill)
-			rows[i] = table.rows[i]
+			text := pattern(n)
+			if got, want := CRC(text), bitwise(text); got != want {
+				t.Errorf("P3: CRC of %d bytes, by one of many: %08x, want %08x", n, got, want)
+			}
 		})
 	}
 	group.Wait()
-	CRC("")
-	for i, row := range rows {
-		if row != halves.rows[i] {
-			t.Errorf("P3: row %d of the CRC's table: %08x, want %08x", i, row, halves.rows[i])
-		}
-	}
 }
