@@ -77,23 +77,81 @@ func Sum(text string) string {
 // CRC tells the CRC-32 of a text (P3).
 func CRC(text string) uint32 { return sums.CRC(text) }
 
-// Format makes an empty archive of a disk (P8).
-func Format(d *Disk) error { return nil }
-
 // Archive is a tree, and its snapshots on a disk.
-type Archive struct{}
-
-// Mount finds the archive of a disk (P9).
-func Mount(d *Disk) (*Archive, error) { return nil, nil }
+type Archive struct {
+	root *node
+}
 
 // Write puts a file into the tree (P6).
-func (a *Archive) Write(path, data string) error { return nil }
+func (a *Archive) Write(path, data string) error {
+	names, err := below(path)
+	if err != nil {
+		return err
+	}
+	if len(data) > mostBytes {
+		return ErrBig
+	}
+	dir, name, err := a.root.above(names)
+	if err != nil {
+		return err
+	}
+	there, ok := dir.names[name]
+	if ok && there.isDirectory() {
+		return ErrKind
+	}
+	if !ok && a.isFull(dir) {
+		return ErrMany
+	}
+	dir.put(name, newFile(data))
+	return nil
+}
 
 // Mkdir puts a directory into the tree (P6).
-func (a *Archive) Mkdir(path string) error { return nil }
+func (a *Archive) Mkdir(path string) error {
+	dir, name, err := a.place(path)
+	if err != nil {
+		return err
+	}
+	if _, ok := dir.names[name]; ok {
+		return ErrAgain
+	}
+	if a.isFull(dir) {
+		return ErrMany
+	}
+	dir.put(name, newDirectory())
+	return nil
+}
 
 // Remove takes something out of the tree (P6).
-func (a *Archive) Remove(path string) error { return nil }
+func (a *Archive) Remove(path string) error {
+	dir, name, err := a.place(path)
+	if err != nil {
+		return err
+	}
+	there, ok := dir.names[name]
+	if !ok {
+		return ErrNone
+	}
+	if len(there.names) > 0 {
+		return ErrBusy
+	}
+	delete(dir.names, name)
+	return nil
+}
+
+// place finds, in the tree, the directory of a path's last name, and that name (P6).
+func (a *Archive) place(path string) (*node, string, error) {
+	names, err := below(path)
+	if err != nil {
+		return nil, "", err
+	}
+	return a.root.above(names)
+}
+
+// isFull: has a directory of the tree, or all of the tree, no room for one more name?
+func (a *Archive) isFull(dir *node) bool {
+	return len(dir.names) >= mostInDirectory || a.root.count() >= mostInTree
+}
 
 // Snapshot keeps the tree as it is (P10).
 func (a *Archive) Snapshot(label string) (int, error) { return 0, nil }
@@ -102,11 +160,57 @@ func (a *Archive) Snapshot(label string) (int, error) { return 0, nil }
 func (a *Archive) Snapshots() []Info { return nil }
 
 // Read tells a file of a snapshot, or of the tree (P11).
-func (a *Archive) Read(n int, path string) (string, error) { return "", nil }
+func (a *Archive) Read(n int, path string) (string, error) {
+	there, err := a.find(n, path)
+	if err != nil {
+		return "", err
+	}
+	if there.isDirectory() {
+		return "", ErrKind
+	}
+	return there.data, nil
+}
 
 // List tells what stands in a directory of a snapshot, or of the tree (P11).
 func (a *Archive) List(n int, path string) func(yield func(Entry, error) bool) {
-	return func(yield func(Entry, error) bool) {}
+	return func(yield func(Entry, error) bool) {
+		if yield == nil {
+			return
+		}
+		entries, err := a.entries(n, path) // all of them first: yield may change the tree
+		if err != nil {
+			yield(Entry{}, err)
+			return
+		}
+		for _, entry := range entries {
+			if !yield(entry, nil) {
+				return
+			}
+		}
+	}
+}
+
+func (a *Archive) entries(n int, path string) ([]Entry, error) {
+	there, err := a.find(n, path)
+	if err != nil {
+		return nil, err
+	}
+	if !there.isDirectory() {
+		return nil, ErrKind
+	}
+	return there.entries(), nil
+}
+
+// find goes through a path of the tree; no snapshot is kept yet.
+func (a *Archive) find(n int, path string) (*node, error) {
+	names, err := split(path)
+	if err != nil {
+		return nil, err
+	}
+	if n != 0 {
+		return nil, ErrNone
+	}
+	return a.root.find(names)
 }
 
 // Verify looks for damage (P12).
