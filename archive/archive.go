@@ -4,6 +4,7 @@ package archive
 import (
 	"errors"
 	"strconv"
+	"strings"
 
 	"stow/sums"
 )
@@ -79,7 +80,12 @@ func CRC(text string) uint32 { return sums.CRC(text) }
 
 // Archive is a tree, and its snapshots on a disk.
 type Archive struct {
-	root *node
+	root      *node // of the tree
+	disk      *Disk
+	objects   objects        // those that were read, or written for a snapshot that succeeded
+	snapshots []snapshotText // as they were read or written
+	end       tail           // of the records
+	down      bool           // was a Snapshot ErrDown?
 }
 
 // Write puts a file into the tree (P6).
@@ -154,14 +160,59 @@ func (a *Archive) isFull(dir *node) bool {
 }
 
 // Snapshot keeps the tree as it is (P10).
-func (a *Archive) Snapshot(label string) (int, error) { return 0, nil }
+func (a *Archive) Snapshot(label string) (int, error) {
+	if a.down {
+		return 0, ErrDown
+	}
+	if len(label) > longestLabel {
+		return 0, ErrBig
+	}
+	w := newDraft(a.objects, a.end)
+	root := w.directory(a.root)
+	last := snapshotText{number: uint32(len(a.snapshots) + 1), root: root, label: strings.Clone(label)}
+	data, behind := w.end.with(snapshotKind, last.text())
+	if behind.at > a.disk.Sectors() {
+		return 0, ErrFull
+	}
+	if err := a.keep(w, data); err != nil {
+		a.down = true
+		return 0, err
+	}
+	a.objects.add(w.added)
+	a.snapshots = append(a.snapshots, last)
+	a.end = behind
+	return len(a.snapshots), nil
+}
+
+// keep writes what a snapshot needs, and only when that is safe the record that says it is there.
+func (a *Archive) keep(w *draft, last string) error {
+	if w.data.Len() > 0 {
+		if err := lay(a.disk, a.end.at, w.data.String()); err != nil {
+			return err
+		}
+	}
+	return lay(a.disk, w.end.at, last)
+}
 
 // Snapshots tells all (P10).
-func (a *Archive) Snapshots() []Info { return nil }
+func (a *Archive) Snapshots() []Info {
+	var list []Info
+	for _, s := range a.snapshots {
+		list = append(list, Info{Number: int(s.number), Label: s.label, Root: string(s.root[:])})
+	}
+	return list
+}
 
 // Read tells a file of a snapshot, or of the tree (P11).
 func (a *Archive) Read(n int, path string) (string, error) {
-	there, err := a.find(n, path)
+	names, err := split(path)
+	if err != nil {
+		return "", err
+	}
+	if n != 0 {
+		return a.readKept(n, names)
+	}
+	there, err := a.root.find(names)
 	if err != nil {
 		return "", err
 	}
@@ -177,7 +228,7 @@ func (a *Archive) List(n int, path string) func(yield func(Entry, error) bool) {
 		if yield == nil {
 			return
 		}
-		entries, err := a.entries(n, path) // all of them first: yield may change the tree
+		entries, err := a.entries(n, path) // all of them first: yield may change the tree, and an error stands alone
 		if err != nil {
 			yield(Entry{}, err)
 			return
@@ -191,7 +242,14 @@ func (a *Archive) List(n int, path string) func(yield func(Entry, error) bool) {
 }
 
 func (a *Archive) entries(n int, path string) ([]Entry, error) {
-	there, err := a.find(n, path)
+	names, err := split(path)
+	if err != nil {
+		return nil, err
+	}
+	if n != 0 {
+		return a.listKept(n, names)
+	}
+	there, err := a.root.find(names)
 	if err != nil {
 		return nil, err
 	}
@@ -201,17 +259,19 @@ func (a *Archive) entries(n int, path string) ([]Entry, error) {
 	return there.entries(), nil
 }
 
-// find goes through a path of the tree; no snapshot is kept yet.
-func (a *Archive) find(n int, path string) (*node, error) {
-	names, err := split(path)
-	if err != nil {
-		return nil, err
-	}
-	if n != 0 {
-		return nil, ErrNone
-	}
-	return a.root.find(names)
-}
-
 // Verify looks for damage (P12).
-func (a *Archive) Verify() error { return nil }
+func (a *Archive) Verify() error {
+	var first error
+	at := a.disk.Sectors() // where the damage stands that was found so far: behind all
+	for i, all := range a.objects {
+		for sum, there := range all {
+			if there.at > at {
+				continue
+			}
+			if _, err := a.text(kind(i), sum); err != nil {
+				first, at = err, there.at
+			}
+		}
+	}
+	return first
+}

@@ -27,21 +27,31 @@ func Mount(d *Disk) (*Archive, error) {
 	if err != nil || d.Sectors() < sectorsNeeded || first != head(d.Sectors()) {
 		return nil, ErrFormat
 	}
-	if err := wipe(d, 1); err != nil {
+	found := newScan()
+	end := records(d, found.take)
+	if err := wipe(d, end.at); err != nil {
 		return nil, err
 	}
-	return &Archive{root: newDirectory()}, nil
+	a := &Archive{disk: d, objects: found.objects, snapshots: found.snapshots, end: end}
+	a.root, err = a.lastTree()
+	if err != nil {
+		return nil, err
+	}
+	return a, nil
 }
 
 // head is sector 0 of an archive's disk (P7).
 func head(sectors int) string {
-	text := magic + word(uint32(sectors))
+	text := headText(sectors)
 	return padded(text + word(CRC(text)))
 }
 
+// headText is what sector 0 says ahead of its CRC.
+func headText(sectors int) string { return magic + word(uint32(sectors)) }
+
 // wipe writes 0 to each sector, from one on, that is not all 0, and makes that safe.
 func wipe(d *Disk, from int) error {
-	blank := padded("")
+	blank := strings.Repeat("\x00", sectorSize)
 	for at := from; at < d.Sectors(); at++ {
 		data, err := d.Read(at)
 		if err != nil {
@@ -58,9 +68,10 @@ func wipe(d *Disk, from int) error {
 }
 
 // padded is a text with 0 behind it, up to a sector's end.
-func padded(text string) string { return text + strings.Repeat("\x00", sectorSize-len(text)) }
-
-// word is a number in four bytes, the high byte first.
-func word(n uint32) string {
-	return string([]byte{byte(n >> 24), byte(n >> 16), byte(n >> 8), byte(n)})
+func padded(text string) string {
+	over := len(text) % sectorSize
+	if over == 0 {
+		return text
+	}
+	return text + strings.Repeat("\x00", sectorSize-over)
 }

@@ -4,7 +4,6 @@ import (
 	"encoding/binary"
 	"encoding/hex"
 	"hash/crc32"
-	"slices"
 	"strings"
 	"testing"
 
@@ -45,8 +44,16 @@ func laid(t *testing.T, sectors ...string) *archive.Disk {
 
 func shows(t *testing.T, what string, d *archive.Disk, want ...string) {
 	t.Helper()
-	if got := image(t, d); !slices.Equal(got, want) {
-		t.Errorf("%s: the disk is %q, want %q", what, got, want)
+	got := image(t, d)
+	if len(got) != len(want) {
+		t.Errorf("%s: the disk has %d sectors, want %d", what, len(got), len(want))
+		return
+	}
+	for at := range got {
+		if got[at] != want[at] {
+			t.Errorf("%s: sector %d is %q, want %q", what, at, got[at], want[at])
+			return
+		}
 	}
 }
 
