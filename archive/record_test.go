@@ -122,16 +122,18 @@ func names(n int) string {
 	return text
 }
 
-// TestTextsOfEachKind: is such a record one, behind those of base?
-func TestTextsOfEachKind(t *testing.T) {
+// textCase: is such a record one, behind those of base?
+type textCase struct {
+	rec
+	fine bool
+}
+
+func filesAndChunks() map[string]textCase {
 	many := slices.Repeat([]string{full96}, 16)
-	for what, c := range map[string]struct {
-		rec
-		fine bool
-	}{
+	return map[string]textCase{
 		"a chunk of 1 byte":                  {rec{chunk, "z"}, true},
 		"a chunk of 96":                      {rec{chunk, strings.Repeat("z", 96)}, true},
-		"a chunk of 0 bytes":                 {rec{chunk, strings.Repeat("\x00", 96)}, true},
+		"a chunk of bytes that are 0":        {rec{chunk, strings.Repeat("\x00", 96)}, true},
 		"a chunk once more":                  {rec{chunk, full96}, true},
 		"a chunk of none":                    {rec{chunk, ""}, false},
 		"a chunk of 97":                      {rec{chunk, strings.Repeat("z", 97)}, false},
@@ -160,81 +162,101 @@ func TestTextsOfEachKind(t *testing.T) {
 		"a file with two short ones":         {rec{file, fileOf(97, one, one)}, false},
 		"a file of a chunk that is none":     {rec{file, fileOf(1, "n")}, false},
 		"a file of a file":                   {rec{file, fileOf(4, nothing)}, false},
-		"a directory once more":              {rec{dir, inner}, true},
-		"a directory of an empty file":       {rec{dir, entry(1, "e", nothing)}, true},
-		"a directory of directories":         {rec{dir, entry(2, "a", "") + entry(2, "b", inner)}, true},
-		"a name of 16":                       {rec{dir, entry(1, strings.Repeat("n", 16), little)}, true},
-		"a name of 17":                       {rec{dir, entry(1, strings.Repeat("n", 17), little)}, false},
-		"a name of none":                     {rec{dir, entry(1, "", little)}, false},
-		"a name with A":                      {rec{dir, entry(1, "fA", little)}, false},
-		"a name with /":                      {rec{dir, entry(1, "f/g", little)}, false},
-		"a name with é":                      {rec{dir, entry(1, "é", little)}, false},
-		"a name with 0":                      {rec{dir, entry(1, "f\x00", little)}, false},
-		"a name with 255":                    {rec{dir, entry(1, "\xff", little)}, false},
-		"16 names":                           {rec{dir, names(16)}, true},
-		"17 names":                           {rec{dir, names(17)}, false},
-		"names by bytes":                     {rec{dir, entry(1, "-", little) + entry(1, ".", little) + entry(1, "0", little) + entry(1, "_", little) + entry(1, "a", little) + entry(1, "a-", little) + entry(1, "aa", little) + entry(1, "b", little)}, true},
-		"names that fall":                    {rec{dir, entry(1, "b", little) + entry(1, "a", little)}, false},
-		"names that fall at last":            {rec{dir, entry(1, "a", little) + entry(1, "c", little) + entry(1, "b", little)}, false},
-		"names by length":                    {rec{dir, entry(1, "b", little) + entry(1, "aa", little)}, false},
-		"a name twice":                       {rec{dir, entry(1, "a", little) + entry(1, "a", little)}, false},
-		"a name of both kinds":               {rec{dir, entry(1, "a", little) + entry(2, "a", "")}, false},
-		"a mark of 0":                        {rec{dir, entry(0, "a", little)}, false},
-		"a mark of 3":                        {rec{dir, entry(3, "a", little)}, false},
-		"a mark of 255":                      {rec{dir, entry(255, "a", "")}, false},
-		"a file that is a directory":         {rec{dir, entry(1, "a", inner)}, false},
-		"a directory that is a file":         {rec{dir, entry(2, "a", little)}, false},
-		"a directory of a chunk":             {rec{dir, entry(1, "a", full96)}, false},
-		"a directory of what is none":        {rec{dir, entry(1, "a", "n")}, false},
-		"a directory of a file, then none":   {rec{dir, entry(1, "a", little) + entry(2, "b", "n")}, false},
-		"a directory of none, then a file":   {rec{dir, entry(2, "a", "n") + entry(1, "b", little)}, false},
-		"a directory of itself":              {rec{dir, "\x02\x01a" + strings.Repeat("\x00", 32)}, false},
-		"a directory with a byte too many":   {rec{dir, inner + "\x01"}, false},
-		"a directory with two too many":      {rec{dir, inner + "\x01\x01"}, false},
-		"a directory with a byte too few":    {rec{dir, inner[:34]}, false},
-		"a directory of one byte":            {rec{dir, "\x01"}, false},
-		"a directory of a length alone":      {rec{dir, "\x01\xff"}, false},
-		"a name longer than the text":        {rec{dir, "\x01\xff" + inner[2:]}, false},
-		"a snapshot":                         {rec{snap, snapOf(1, inner, "label")}, true},
-		"a snapshot of nothing":              {rec{snap, snapOf(1, "", "")}, true},
-		"a label of 20":                      {rec{snap, snapOf(1, inner, strings.Repeat("l", 20))}, true},
-		"a label of any bytes":               {rec{snap, snapOf(1, inner, "\x00\xff/\n")}, true},
-		"a label of 21":                      {rec{snap, snapOf(1, inner, strings.Repeat("l", 21))}, false},
-		"a snapshot with a byte too few":     {rec{snap, snapOf(1, inner, "")[:35]}, false},
-		"a snapshot of a number":             {rec{snap, word(1)}, false},
-		"a snapshot without a text":          {rec{snap, ""}, false},
-		"snapshot 0":                         {rec{snap, snapOf(0, inner, "")}, false},
-		"snapshot 2":                         {rec{snap, snapOf(2, inner, "")}, false},
-		"snapshot 2^24":                      {rec{snap, snapOf(1<<24, inner, "")}, false},
-		"a snapshot of a file":               {rec{snap, snapOf(1, little, "")}, false},
-		"a snapshot of a chunk":              {rec{snap, snapOf(1, one, "")}, false},
-		"a snapshot of what is none":         {rec{snap, snapOf(1, "n", "")}, false},
-		"kind 0":                             {rec{0, "z"}, false},
-		"kind 5":                             {rec{5, "z"}, false},
-		"kind 255":                           {rec{255, ""}, false},
 		"a text of 1001":                     {rec{chunk, strings.Repeat("z", 1001)}, false},
-	} {
-		l := newLayer(100)
-		for _, r := range base() {
-			l.add(r.kind, r.text)
-		}
-		want := l.image(100)
-		l.add(c.kind, c.text)
-		if c.fine {
-			want = l.image(100)
-		}
-		if !c.fine {
-			l.add(chunk, "behind it") // a right one there does not help
-		}
-		d := laid(t, l.image(100)...)
-		a, err := archive.Mount(d)
-		is(t, "P9: Mount", err, nil)
-		shows(t, "P7: "+what, d, want...)
-		if snapshots := c.fine && c.kind == snap; (len(a.Snapshots()) == 1) != snapshots {
-			t.Errorf("P7: %s: snapshots %v", what, a.Snapshots())
-		}
-		is(t, "P12: Verify", a.Verify(), nil)
 	}
+}
+
+func directories() map[string]textCase {
+	return map[string]textCase{
+		"a directory once more":            {rec{dir, inner}, true},
+		"a directory of an empty file":     {rec{dir, entry(1, "e", nothing)}, true},
+		"a directory of directories":       {rec{dir, entry(2, "a", "") + entry(2, "b", inner)}, true},
+		"a name of 16":                     {rec{dir, entry(1, strings.Repeat("n", 16), little)}, true},
+		"a name of 17":                     {rec{dir, entry(1, strings.Repeat("n", 17), little)}, false},
+		"a name of none":                   {rec{dir, entry(1, "", little)}, false},
+		"a name with A":                    {rec{dir, entry(1, "fA", little)}, false},
+		"a name with /":                    {rec{dir, entry(1, "f/g", little)}, false},
+		"a name with é":                    {rec{dir, entry(1, "é", little)}, false},
+		"a name with 0":                    {rec{dir, entry(1, "f\x00", little)}, false},
+		"a name with 255":                  {rec{dir, entry(1, "\xff", little)}, false},
+		"16 names":                         {rec{dir, names(16)}, true},
+		"17 names":                         {rec{dir, names(17)}, false},
+		"names by bytes":                   {rec{dir, entry(1, "-", little) + entry(1, ".", little) + entry(1, "0", little) + entry(1, "_", little) + entry(1, "a", little) + entry(1, "a-", little) + entry(1, "aa", little) + entry(1, "b", little)}, true},
+		"names that fall":                  {rec{dir, entry(1, "b", little) + entry(1, "a", little)}, false},
+		"names that fall at last":          {rec{dir, entry(1, "a", little) + entry(1, "c", little) + entry(1, "b", little)}, false},
+		"names by length":                  {rec{dir, entry(1, "b", little) + entry(1, "aa", little)}, false},
+		"a name twice":                     {rec{dir, entry(1, "a", little) + entry(1, "a", little)}, false},
+		"a name of both kinds":             {rec{dir, entry(1, "a", little) + entry(2, "a", "")}, false},
+		"a mark of 0":                      {rec{dir, entry(0, "a", little)}, false},
+		"a mark of 3":                      {rec{dir, entry(3, "a", little)}, false},
+		"a mark of 255":                    {rec{dir, entry(255, "a", "")}, false},
+		"a file that is a directory":       {rec{dir, entry(1, "a", inner)}, false},
+		"a directory that is a file":       {rec{dir, entry(2, "a", little)}, false},
+		"a directory of a chunk":           {rec{dir, entry(1, "a", full96)}, false},
+		"a directory of what is none":      {rec{dir, entry(1, "a", "n")}, false},
+		"a directory of a file, then none": {rec{dir, entry(1, "a", little) + entry(2, "b", "n")}, false},
+		"a directory of none, then a file": {rec{dir, entry(2, "a", "n") + entry(1, "b", little)}, false},
+		"a directory of itself":            {rec{dir, "\x02\x01a" + strings.Repeat("\x00", 32)}, false},
+		"a directory with a byte too many": {rec{dir, inner + "\x01"}, false},
+		"a directory with two too many":    {rec{dir, inner + "\x01\x01"}, false},
+		"a directory with a byte too few":  {rec{dir, inner[:34]}, false},
+		"a directory of one byte":          {rec{dir, "\x01"}, false},
+		"a directory of a length alone":    {rec{dir, "\x01\xff"}, false},
+		"a name longer than the text":      {rec{dir, "\x01\xff" + inner[2:]}, false},
+	}
+}
+
+func snapshotsAndNoKind() map[string]textCase {
+	return map[string]textCase{
+		"a snapshot":                     {rec{snap, snapOf(1, inner, "label")}, true},
+		"a snapshot of nothing":          {rec{snap, snapOf(1, "", "")}, true},
+		"a label of 20":                  {rec{snap, snapOf(1, inner, strings.Repeat("l", 20))}, true},
+		"a label of any bytes":           {rec{snap, snapOf(1, inner, "\x00\xff/\n")}, true},
+		"a label of 21":                  {rec{snap, snapOf(1, inner, strings.Repeat("l", 21))}, false},
+		"a snapshot with a byte too few": {rec{snap, snapOf(1, inner, "")[:35]}, false},
+		"a snapshot of a number":         {rec{snap, word(1)}, false},
+		"a snapshot without a text":      {rec{snap, ""}, false},
+		"snapshot 0":                     {rec{snap, snapOf(0, inner, "")}, false},
+		"snapshot 2":                     {rec{snap, snapOf(2, inner, "")}, false},
+		"snapshot 2^24":                  {rec{snap, snapOf(1<<24, inner, "")}, false},
+		"a snapshot of a file":           {rec{snap, snapOf(1, little, "")}, false},
+		"a snapshot of a chunk":          {rec{snap, snapOf(1, one, "")}, false},
+		"a snapshot of what is none":     {rec{snap, snapOf(1, "n", "")}, false},
+		"kind 0":                         {rec{0, "z"}, false},
+		"kind 5":                         {rec{5, "z"}, false},
+		"kind 255":                       {rec{255, ""}, false},
+	}
+}
+
+func TestTextsOfEachKind(t *testing.T) {
+	for _, table := range []map[string]textCase{filesAndChunks(), directories(), snapshotsAndNoKind()} {
+		for what, c := range table {
+			c.holds(t, what)
+		}
+	}
+}
+
+func (c textCase) holds(t *testing.T, what string) {
+	t.Helper()
+	l := newLayer(100)
+	for _, r := range base() {
+		l.add(r.kind, r.text)
+	}
+	want := l.image(100)
+	l.add(c.kind, c.text)
+	if c.fine {
+		want = l.image(100)
+	} else {
+		l.add(chunk, "behind it") // a right one there does not help
+	}
+	d := laid(t, l.image(100)...)
+	a, err := archive.Mount(d)
+	is(t, "P9: Mount", err, nil)
+	shows(t, "P7: "+what, d, want...)
+	if snapshots := c.fine && c.kind == snap; (len(a.Snapshots()) == 1) != snapshots {
+		t.Errorf("P7: %s: snapshots %v", what, a.Snapshots())
+	}
+	is(t, "P12: Verify", a.Verify(), nil)
 }
 
 func TestSnapshotsAreNumberedOneByOne(t *testing.T) {
