@@ -5,7 +5,7 @@ import "stow/sums"
 // scan takes in a disk's records, one by one, if their texts are as P7 says.
 type scan struct {
 	objects   objects
-	extents   map[sums.Sum]extent // of the directories
+	extents   map[sums.Sum]extent // of the directories that objects has
 	snapshots []snapshotText
 }
 
@@ -22,7 +22,11 @@ func (s *scan) take(r record) bool {
 	if r.kind == snapshotKind {
 		return s.takeSnapshot(r.text)
 	}
-	sum := sums.Of(r.text)
+	return s.takeObject(sums.Of(r.text), r)
+}
+
+// takeObject takes in what is no snapshot, by its Sum: of several of one kind with one Sum the first is meant, so a later one must be right, too, but changes nothing.
+func (s *scan) takeObject(sum sums.Sum, r record) bool {
 	ok := false
 	switch r.kind {
 	case chunkKind:
@@ -62,7 +66,9 @@ func (s *scan) takeExtent(sum sums.Sum, text string) bool {
 		all.names += 1 + below.names
 	}
 	all.names = min(all.names, mostInTree+1) // directories of directories double with each record: no number would hold them
-	s.extents[sum] = all
+	if _, told := s.extents[sum]; ok && !told {
+		s.extents[sum] = all
+	}
 	return ok
 }
 
